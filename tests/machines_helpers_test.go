@@ -42,6 +42,19 @@ func drawList(r *rand.Rand, n int, low, high int64) []int64 {
 	return list
 }
 
+// pickers return functions that pick one of some numbers, and a list of n of them.
+func pickers(r *rand.Rand, numbers []int64) (one func() int64, many func(n int) []int64) {
+	one = func() int64 { return numbers[r.IntN(len(numbers))] }
+	many = func(n int) []int64 {
+		list := make([]int64, n)
+		for i := range list {
+			list[i] = one()
+		}
+		return list
+	}
+	return one, many
+}
+
 // drawOrder returns an order of n.
 func drawOrder(r *rand.Rand, n int) []int64 {
 	order := make([]int64, n)

@@ -141,15 +141,7 @@ func wildNumbers() []int64 {
 // TestMachinesReturnForAll calls all functions of chapter 2 with arguments of all kinds.
 func TestMachinesReturnForAll(t *testing.T) {
 	r := drawer(22)
-	wild := wildNumbers()
-	any := func() int64 { return wild[r.IntN(len(wild))] }
-	lists := func(n int) []int64 {
-		list := make([]int64, n)
-		for i := range list {
-			list[i] = any()
-		}
-		return list
-	}
+	any, lists := pickers(r, wildNumbers())
 	for range 3000 {
 		n := []int{0, 1, 2, 3, 10, 11, 24, 25, 100}[r.IntN(9)]
 		a := asking{order: lists(n), starts: lists(n), times: lists(n), costs: lists(n * n), kind: any(), at: any(), machines: any(), workers: any(), most: any()}
