@@ -91,10 +91,7 @@ func TestSameSaved(t *testing.T) {
 
 // checked returns bytes with the two bytes of their check number.
 func checked(s string) string {
-	check := 0
-	for _, b := range []byte(s) {
-		check = (967*check + int(b) + 227) % 65003
-	}
+	check := checkByHand(0, s)
 	return s + string([]byte{byte(check), byte(check >> 8)})
 }
 
